@@ -1,0 +1,111 @@
+package tests
+
+import (
+	"fmt"
+	"math"
+	"math/rand"
+	"strings"
+	"sync"
+	"testing"
+
+	"loop.example/g00548/impl"
+)
+
+// stageCalls are calls of all functions, each telling its whole answer.
+func stageCalls() []func() string {
+	var calls []func() string
+	for _, n := range []int{math.MinInt, -1, 0, 1, 19, 20, math.MaxInt} {
+		calls = append(calls, func() string { return impl.CodeWord(n) })
+	}
+	for _, s := range []string{"", "ok", "name_1", "1", "Ff", "ff", "\xff\x00", textOf(63), textOf(64), strings.Repeat("0", impl.MaxText), textOf(impl.MaxText), textOf(impl.MaxText + 1)} {
+		calls = append(calls,
+			func() string { return fmt.Sprint(impl.NameOK(s)) },
+			func() string { return fmt.Sprint(impl.CodeOf(s)) },
+			func() string { return told(impl.HashOf(s)) },
+			func() string { return told(impl.HexOf(s)) },
+			func() string { return told(impl.UnHex(s)) },
+		)
+	}
+	hashes := append(badHashes(), impl.NewHash(), impl.Hash{}, hashAt(63), hashAt(900000000), hashAt(900000001), hashAt(1000000000))
+	for _, h := range hashes {
+		calls = append(calls, func() string { return callsOn(h) })
+	}
+	return append(calls, func() string { return fmt.Sprint(impl.NewHash()) })
+}
+
+func told(text string, code int) string {
+	return fmt.Sprintf("%x %d", text, code)
+}
+
+func callsOn(h impl.Hash) string {
+	right := impl.HashOK(h)
+	x, code := impl.HashMore(h, "a text")
+	y, codeLong := impl.HashMore(h, strings.Repeat("b", 130))
+	digest := told(impl.HashSum(h))
+	return fmt.Sprint(right, x, code, y, codeLong, digest)
+}
+
+func TestNoArgumentIsChanged(t *testing.T) {
+	for _, h := range append(badHashes(), impl.NewHash(), hashAt(63), hashAt(900000001)) {
+		kept := impl.Hash{H: h.H, Buf: strings.Clone(h.Buf), N: h.N}
+		callsOn(h)
+		if h != kept {
+			t.Error("changed", kept.N)
+		}
+	}
+	s := textOf(impl.MaxText)
+	kept := strings.Clone(s)
+	impl.HashOf(s)
+	impl.HashMore(impl.NewHash(), s)
+	impl.HexOf(s)
+	impl.UnHex(s)
+	impl.NameOK(s)
+	impl.CodeOf(s)
+	if s != kept {
+		t.Error("changed a text")
+	}
+}
+
+func TestAlikeArgumentsHaveAlikeAnswers(t *testing.T) {
+	calls := stageCalls()
+	want := make([]string, len(calls))
+	for i, call := range calls {
+		want[i] = call()
+	}
+	r := rand.New(rand.NewSource(2))
+	for range 3 {
+		for _, i := range r.Perm(len(calls)) {
+			if got := calls[i](); got != want[i] {
+				t.Errorf("call %d: %.80s, ahead %.80s", i, got, want[i])
+			}
+		}
+	}
+}
+
+func TestCallsBesideEachOther(t *testing.T) {
+	calls := stageCalls()
+	want := make([]string, len(calls))
+	for i, call := range calls {
+		want[i] = call()
+	}
+	var all sync.WaitGroup
+	for worker := range 4 {
+		all.Go(func() {
+			for _, i := range rand.New(rand.NewSource(int64(worker))).Perm(len(calls)) {
+				if calls[i]() != want[i] {
+					t.Error("call", i)
+				}
+			}
+		})
+	}
+	all.Wait()
+}
+
+func TestNewHashIsNewEachTime(t *testing.T) {
+	h := impl.NewHash()
+	h.H[0], h.Buf, h.N = 7, "x", 1
+	more(t, h, textOf(200))
+	if x := impl.NewHash(); x.H[0] != 0x6a09e667 || x.Buf != "" || x.N != 0 {
+		t.Error(x)
+	}
+}
