@@ -4,6 +4,7 @@ import (
 	"fmt"
 	"math"
 	"math/rand"
+	"slices"
 	"strings"
 	"sync"
 	"testing"
@@ -30,7 +31,35 @@ func stageCalls() []func() string {
 	for _, h := range hashes {
 		calls = append(calls, func() string { return callsOn(h) })
 	}
-	return append(calls, func() string { return fmt.Sprint(impl.NewHash()) })
+	calls = append(calls, func() string { return fmt.Sprint(impl.NewHash()) })
+	return append(calls, streamCalls()...)
+}
+
+func streamCalls() []func() string {
+	var calls []func() string
+	for _, w := range slices.Concat(edgeWords, wrongWords) {
+		for place := range 4 {
+			x := [4]int{1, 2, 3, 4}
+			x[place] = w
+			calls = append(calls, func() string { return fmt.Sprint(impl.QuarterRound(x)) })
+		}
+	}
+	for _, n := range []int{0, 11, 12, 31, 32, 33, impl.MaxText + 1} {
+		calls = append(calls, func() string { return callsWith(textOf(n), textOf(12), 1) })
+		calls = append(calls, func() string { return callsWith(textOf(32), textOf(n), 1) })
+	}
+	for _, count := range slices.Concat(rightCounts, wrongCounts) {
+		calls = append(calls, func() string { return callsWith(textOf(32), textOf(12), count) })
+	}
+	return calls
+}
+
+func callsWith(key, nonce string, count int) string {
+	out := told(impl.ChaBlock(key, nonce, count)) + told(impl.XorOf(key, nonce)) + told(impl.XorOf(key, textOf(32)))
+	for _, n := range []int{0, 1, 64, 65, impl.MaxText + 1} {
+		out += told(impl.ChaXor(key, nonce, count, textOf(n)))
+	}
+	return out
 }
 
 func told(text string, code int) string {
@@ -61,8 +90,18 @@ func TestNoArgumentIsChanged(t *testing.T) {
 	impl.UnHex(s)
 	impl.NameOK(s)
 	impl.CodeOf(s)
+	impl.ChaBlock(s[:32], s[32:44], 1)
+	impl.ChaXor(s[:32], s[32:44], 1, s)
+	impl.ChaXor(s[:32], s[32:44], 1, s[:len(s)-1])
+	impl.XorOf(s, s)
+	impl.XorOf(s[:100], s[100:200])
 	if s != kept {
 		t.Error("changed a text")
+	}
+	x := [4]int{1, 2, 3, 4}
+	impl.QuarterRound(x)
+	if x != [4]int{1, 2, 3, 4} {
+		t.Error("changed words", x)
 	}
 }
 
