@@ -32,7 +32,7 @@ func stageCalls() []func() string {
 		calls = append(calls, func() string { return callsOn(h) })
 	}
 	calls = append(calls, func() string { return fmt.Sprint(impl.NewHash()) })
-	return append(calls, streamCalls()...)
+	return slices.Concat(calls, streamCalls(), tagCalls())
 }
 
 func streamCalls() []func() string {
@@ -60,6 +60,21 @@ func callsWith(key, nonce string, count int) string {
 		out += told(impl.ChaXor(key, nonce, count, textOf(n)))
 	}
 	return out
+}
+
+func tagCalls() []func() string {
+	var calls []func() string
+	for _, n := range []int{0, 16, 31, 32, 33, impl.MaxText, impl.MaxText + 1} {
+		key := textOf(n)
+		calls = append(calls, func() string { return told(impl.ClampKey(key)) })
+		for _, size := range []int{0, 1, 15, 16, 17, 64, impl.MaxText, impl.MaxText + 1} {
+			calls = append(calls,
+				func() string { return told(impl.PolyTag(key, textOf(size))) },
+				func() string { return fmt.Sprint(impl.TagEqual(key, textOf(size))) },
+			)
+		}
+	}
+	return calls
 }
 
 func told(text string, code int) string {
@@ -95,6 +110,13 @@ func TestNoArgumentIsChanged(t *testing.T) {
 	impl.ChaXor(s[:32], s[32:44], 1, s[:len(s)-1])
 	impl.XorOf(s, s)
 	impl.XorOf(s[:100], s[100:200])
+	impl.ClampKey(s[:32])
+	impl.ClampKey(s)
+	impl.PolyTag(s[:32], s)
+	impl.PolyTag(s[32:64], s[:len(s)-1])
+	impl.PolyTag(s[:32], "")
+	impl.TagEqual(s, kept)
+	impl.TagEqual(s[:16], s[16:32])
 	if s != kept {
 		t.Error("changed a text")
 	}
