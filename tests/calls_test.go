@@ -32,7 +32,7 @@ func stageCalls() []func() string {
 		calls = append(calls, func() string { return callsOn(h) })
 	}
 	calls = append(calls, func() string { return fmt.Sprint(impl.NewHash()) })
-	return slices.Concat(calls, streamCalls(), tagCalls())
+	return slices.Concat(calls, streamCalls(), tagCalls(), boxCalls())
 }
 
 func streamCalls() []func() string {
@@ -77,6 +77,28 @@ func tagCalls() []func() string {
 	return calls
 }
 
+func boxCalls() []func() string {
+	var calls []func() string
+	add := func(key, nonce, ad, text string) {
+		calls = append(calls,
+			func() string { return told(impl.BoxTag(key, nonce, ad, text)) },
+			func() string { return told(impl.SealBox(key, nonce, ad, text)) },
+			func() string { return told(impl.OpenBox(key, nonce, ad, text)) },
+		)
+	}
+	key, nonce := textOf(32), textOf(12)
+	for _, n := range []int{0, 1, 15, 16, 17, 100, impl.MaxText, impl.MaxText + 1} {
+		add(textOf(n), nonce, "", textOf(16))
+		add(key, textOf(n), "", textOf(16))
+		add(key, nonce, textOf(n), textOf(16))
+		add(key, nonce, textOf(n), textOf(n))
+		sealed, _ := impl.SealBox(key, nonce, "beside", textOf(n))
+		add(key, nonce, "beside", sealed)
+		add(key, nonce, "", sealed)
+	}
+	return calls
+}
+
 func told(text string, code int) string {
 	return fmt.Sprintf("%x %d", text, code)
 }
@@ -117,8 +139,19 @@ func TestNoArgumentIsChanged(t *testing.T) {
 	impl.PolyTag(s[:32], "")
 	impl.TagEqual(s, kept)
 	impl.TagEqual(s[:16], s[16:32])
+	impl.BoxTag(s[:32], s[32:44], s, s)
+	impl.SealBox(s[:32], s[32:44], s, s)
+	impl.SealBox(s[:32], s[32:44], s[44:49], s[50:])
+	impl.OpenBox(s[:32], s[32:44], s, s)
+	impl.OpenBox(s[:32], s[32:44], "", s[:15])
 	if s != kept {
 		t.Error("changed a text")
+	}
+	sealed, _ := impl.SealBox(s[:32], s[32:44], s, s[:1000])
+	kept = strings.Clone(sealed)
+	impl.OpenBox(s[:32], s[32:44], s, sealed)
+	if sealed != kept {
+		t.Error("changed a sealed text")
 	}
 	x := [4]int{1, 2, 3, 4}
 	impl.QuarterRound(x)
