@@ -32,7 +32,7 @@ func stageCalls() []func() string {
 		calls = append(calls, func() string { return callsOn(h) })
 	}
 	calls = append(calls, func() string { return fmt.Sprint(impl.NewHash()) })
-	return slices.Concat(calls, streamCalls(), tagCalls(), boxCalls())
+	return slices.Concat(calls, streamCalls(), tagCalls(), boxCalls(), deviceCalls())
 }
 
 func streamCalls() []func() string {
@@ -97,6 +97,40 @@ func boxCalls() []func() string {
 		add(key, nonce, "", sealed)
 	}
 	return calls
+}
+
+func deviceCalls() []func() string {
+	calls := []func() string{func() string { return toldDevice(impl.NewDevice(), impl.OK) }}
+	devices := []impl.Device{impl.NewDevice(), someDevice(), deviceOf(nil, writesOf(60)...), deviceOf(nil, writesOf(61)...), {}}
+	for _, d := range devices {
+		calls = append(calls,
+			func() string { return fmt.Sprint(impl.DeviceOK(d)) },
+			func() string { return toldDevice(impl.SyncAll(d)) },
+			func() string { return fmt.Sprint(impl.SameDevice(d, devices[0]), impl.SameDevice(d, d)) },
+		)
+		for _, at := range []int{math.MinInt, -1, 0, 3, 39, 40, math.MaxInt} {
+			calls = append(calls, func() string { return told(impl.ReadAt(d, at)) })
+			for _, n := range []int{0, 700, 701, impl.MaxText + 1} {
+				calls = append(calls, func() string { return toldDevice(impl.WriteAt(d, at, textOf(n))) })
+			}
+			for _, n := range []int{math.MinInt, -1, 0, 1, 255, 256, math.MaxInt} {
+				calls = append(calls, func() string { return toldDevice(impl.FlipAt(d, at, 0, n)) })
+				calls = append(calls, func() string { return toldDevice(impl.FlipAt(d, at, n, 1)) })
+			}
+		}
+		for _, fates := range [][]int{nil, {}, {0}, {1, 2}, {2, 0, 1}, {-1}, {3}, make([]int, impl.MaxList+1)} {
+			calls = append(calls, func() string { return toldDevice(impl.CrashWith(d, fates)) })
+		}
+	}
+	return calls
+}
+
+func toldDevice(d impl.Device, code int) string {
+	out := fmt.Sprintf("%x", d.Sure)
+	for _, write := range d.Unsure {
+		out += fmt.Sprintf(" %d %x", write.At, write.Data)
+	}
+	return out + fmt.Sprint(" ", code)
 }
 
 func told(text string, code int) string {
