@@ -32,7 +32,7 @@ func stageCalls() []func() string {
 		calls = append(calls, func() string { return callsOn(h) })
 	}
 	calls = append(calls, func() string { return fmt.Sprint(impl.NewHash()) })
-	return slices.Concat(calls, streamCalls(), tagCalls(), boxCalls(), deviceCalls())
+	return slices.Concat(calls, streamCalls(), tagCalls(), boxCalls(), deviceCalls(), blockCalls())
 }
 
 func streamCalls() []func() string {
@@ -121,6 +121,39 @@ func deviceCalls() []func() string {
 		for _, fates := range [][]int{nil, {}, {0}, {1, 2}, {2, 0, 1}, {-1}, {3}, make([]int, impl.MaxList+1)} {
 			calls = append(calls, func() string { return toldDevice(impl.CrashWith(d, fates)) })
 		}
+	}
+	return calls
+}
+
+func blockCalls() []func() string {
+	var calls []func() string
+	add := func(b block) {
+		calls = append(calls,
+			func() string { return told(impl.NonceOf(b.kind, b.place, b.epoch)) },
+			func() string { return told(impl.SealAt(b.key, b.kind, b.place, b.epoch, b.text)) },
+			func() string { return told(impl.OpenAt(b.key, b.kind, b.place, b.epoch, b.text)) },
+		)
+	}
+	for _, n := range []int{0, 1, 15, 16, 64, 65, longestSealed, longestSealed + 1, impl.MaxText, impl.MaxText + 1} {
+		b := someBlock(n)
+		sealed, _ := impl.SealAt(b.key, b.kind, b.place, b.epoch, b.text)
+		add(b)
+		add(b.with(sealed))
+		add(b.with(sealed).at(b.kind, b.place, b.epoch+1))
+		b.key = textOf(n)
+		add(b)
+	}
+	for _, n := range []int{math.MinInt, -1, 0, 1, 3, 4, 39, 40, 256, impl.MaxSeal, impl.MaxSeal + 1, math.MaxInt} {
+		add(someBlock(20).at(n, 0, 0))
+		add(someBlock(20).at(1, n, 0))
+		add(someBlock(20).at(1, 0, n))
+		calls = append(calls, func() string { return told(impl.IntsText([]int{1, n, 2})) })
+	}
+	for _, n := range []int{0, 1, 2, 3, 4, 5, 8, impl.MaxList, impl.MaxList + 1, impl.MaxText, impl.MaxText + 1} {
+		calls = append(calls,
+			func() string { return told(impl.IntsText(make([]int, n))) },
+			func() string { return fmt.Sprint(impl.TextInts(textOf(n))) },
+		)
 	}
 	return calls
 }
