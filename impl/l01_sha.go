@@ -7,6 +7,7 @@ import (
 
 const (
 	hashBlock  = 64
+	digestSize = 32
 	lengthAt   = 56         // where in its last block a text's length stands
 	maxHashed  = 1000000000 // bytes that a hash may have taken
 	maxGrowing = 900000000  // bytes behind which a hash takes no more
@@ -85,7 +86,13 @@ func HashOf(t string) (string, int) {
 	if len(t) > MaxText {
 		return "", ErrLong
 	}
-	return NewHash().with(t).digest(), OK
+	return digestOf(t), OK
+}
+
+// digestOf has no bound: what is hashed may be a text of MaxText bytes and
+// what a layer puts ahead of it.
+func digestOf(t string) string {
+	return NewHash().with(t).digest()
 }
 
 func (h Hash) right() bool {
@@ -113,7 +120,7 @@ func (h Hash) with(t string) Hash {
 
 func (h Hash) digest() string {
 	last := h.with(hashPadding(h.N))
-	out := make([]byte, 0, 32)
+	out := make([]byte, 0, digestSize)
 	for _, w := range last.H {
 		out = append(out, byte(w>>24), byte(w>>16), byte(w>>8), byte(w))
 	}

@@ -32,7 +32,7 @@ func stageCalls() []func() string {
 		calls = append(calls, func() string { return callsOn(h) })
 	}
 	calls = append(calls, func() string { return fmt.Sprint(impl.NewHash()) })
-	return slices.Concat(calls, streamCalls(), tagCalls(), boxCalls(), deviceCalls(), blockCalls())
+	return slices.Concat(calls, streamCalls(), tagCalls(), boxCalls(), deviceCalls(), blockCalls(), treeCalls())
 }
 
 func streamCalls() []func() string {
@@ -158,12 +158,54 @@ func blockCalls() []func() string {
 	return calls
 }
 
+func treeCalls() []func() string {
+	var calls []func() string
+	texts := someTexts()
+	root, _ := impl.RootOf(texts)
+	for _, at := range []int{math.MinInt, -1, 0, 1, 7, 8, 15, 16, math.MaxInt} {
+		proof, _ := impl.ProofOf(texts, at&15)
+		calls = append(calls,
+			func() string { return fmt.Sprint(impl.CheckProof(root, at, texts[at&15], proof)) },
+			func() string { return fmt.Sprint(impl.CheckProof(root, at, texts[0], proof)) },
+			func() string { return fmt.Sprint(impl.CheckProof(root, at, "", nil)) },
+			func() string { return fmt.Sprint(impl.CheckProof(root, at, "", make([]string, 4))) },
+		)
+		for _, n := range []int{0, 15, 16, 17, impl.MaxList, impl.MaxList + 1} {
+			list := slices.Repeat(texts, 1+n/16)[:n]
+			calls = append(calls, func() string { return toldProof(impl.ProofOf(list, at)) })
+		}
+	}
+	for _, n := range []int{0, 1, 15, 16, 17, impl.MaxList, impl.MaxList + 1} {
+		list := slices.Repeat(texts, 1+n/16)[:n]
+		calls = append(calls, func() string { return told(impl.RootOf(list)) })
+	}
+	for _, n := range []int{0, 1, 31, 32, 33, 62, 700, 701, impl.MaxText, impl.MaxText + 1} {
+		calls = append(calls,
+			func() string { return told(impl.LeafDigest(3, textOf(n))) },
+			func() string { return told(impl.LeafDigest(16, textOf(n))) },
+			func() string { return told(impl.JoinDigests(textOf(n), root)) },
+			func() string { return told(impl.JoinDigests(root, textOf(n))) },
+			func() string { return told(impl.ChainTip(textOf(n), "a text")) },
+			func() string { return told(impl.ChainTip(root, textOf(n))) },
+			func() string { return told(impl.RootOf(slices.Repeat([]string{textOf(n)}, 16))) },
+			func() string {
+				return fmt.Sprint(impl.CheckProof(textOf(n), 0, textOf(n), slices.Repeat([]string{textOf(n)}, 4)))
+			},
+		)
+	}
+	return calls
+}
+
 func toldDevice(d impl.Device, code int) string {
 	out := fmt.Sprintf("%x", d.Sure)
 	for _, write := range d.Unsure {
 		out += fmt.Sprintf(" %d %x", write.At, write.Data)
 	}
 	return out + fmt.Sprint(" ", code)
+}
+
+func toldProof(proof []string, code int) string {
+	return fmt.Sprintf("%x %d", proof, code)
 }
 
 func told(text string, code int) string {
