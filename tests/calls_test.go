@@ -32,7 +32,7 @@ func stageCalls() []func() string {
 		calls = append(calls, func() string { return callsOn(h) })
 	}
 	calls = append(calls, func() string { return fmt.Sprint(impl.NewHash()) })
-	return slices.Concat(calls, streamCalls(), tagCalls(), boxCalls(), deviceCalls(), blockCalls(), treeCalls())
+	return slices.Concat(calls, streamCalls(), tagCalls(), boxCalls(), deviceCalls(), blockCalls(), treeCalls(), wayCalls())
 }
 
 func streamCalls() []func() string {
@@ -194,6 +194,45 @@ func treeCalls() []func() string {
 		)
 	}
 	return calls
+}
+
+func wayCalls() []func() string {
+	var calls []func() string
+	numbers := []int{math.MinInt, -1, 0, 3, 7, 8, 11, 12, 14, 15, 999999, 1000000, math.MaxInt}
+	for _, n := range []int{0, 1, 11, 12, 13, impl.MaxList, impl.MaxList + 1} {
+		list := slices.Repeat(leavesInTurn(), 1+n/12)[:n]
+		calls = append(calls, func() string { return toldOram(impl.NewOram(list)) })
+	}
+	for _, n := range numbers {
+		calls = append(calls,
+			func() string { return fmt.Sprint(impl.PathOf(n)) },
+			func() string { return fmt.Sprint(impl.OnPath(n, 3)) },
+			func() string { return fmt.Sprint(impl.OnPath(4, n)) },
+			func() string { return toldOram(impl.NewOram(append(make([]int, 11), n))) },
+		)
+	}
+	orams := append(oramsByChance(31, 8), someOram(), oramOf(nil, nil), oramOf([]int{3, 3}, nil), impl.Oram{})
+	for _, o := range orams {
+		calls = append(calls, func() string { return fmt.Sprint(impl.OramOK(o), impl.SameOram(o, orams[0])) })
+		for _, n := range numbers {
+			calls = append(calls,
+				func() string { return fmt.Sprint(impl.ValueAt(o, n)) },
+				func() string { return fmt.Sprint(impl.WhereIs(o, n)) },
+				func() string { return toldAccess(impl.Access(o, n, false, 0, 6)) },
+				func() string { return toldAccess(impl.Access(o, 3, true, n, 6)) },
+				func() string { return toldAccess(impl.Access(o, 3, true, 5, n)) },
+			)
+		}
+	}
+	return calls
+}
+
+func toldOram(o impl.Oram, code int) string {
+	return fmt.Sprint(o, code)
+}
+
+func toldAccess(o impl.Oram, value, leaf, code int) string {
+	return fmt.Sprint(o, value, leaf, code)
 }
 
 func toldDevice(d impl.Device, code int) string {
