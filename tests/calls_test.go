@@ -32,7 +32,7 @@ func stageCalls() []func() string {
 		calls = append(calls, func() string { return callsOn(h) })
 	}
 	calls = append(calls, func() string { return fmt.Sprint(impl.NewHash()) })
-	return slices.Concat(calls, streamCalls(), tagCalls(), boxCalls(), deviceCalls(), blockCalls(), treeCalls(), wayCalls())
+	return slices.Concat(calls, streamCalls(), tagCalls(), boxCalls(), deviceCalls(), blockCalls(), treeCalls(), wayCalls(), batchCalls())
 }
 
 func streamCalls() []func() string {
@@ -223,6 +223,37 @@ func wayCalls() []func() string {
 				func() string { return toldAccess(impl.Access(o, 3, true, 5, n)) },
 			)
 		}
+	}
+	return calls
+}
+
+func batchCalls() []func() string {
+	var calls []func() string
+	for _, n := range []int{math.MinInt, -1, 0, 1, 3, 4, 5, 6, 7, 9999, 10000, 999999, 1000000, math.MaxInt} {
+		for _, o := range []impl.Op{{Kind: n, Key: 1}, {Kind: n, Key: 1, Value: 1}, {Kind: 1, Key: n}, {Kind: 1, Key: 1, Value: n}, {Kind: 2, Key: 1, Value: n}, {Kind: 6, Key: 1, Value: n}} {
+			calls = append(calls,
+				func() string { return fmt.Sprint(impl.OpOK(o)) },
+				func() string { return told(impl.OpText(o)) },
+			)
+		}
+	}
+	lists := [][]impl.Txn{nil, {}, {{}}, someBatch(), someShortBatch(), slices.Repeat(someShortBatch(), 2), make([]impl.Txn, impl.MaxList), make([]impl.Txn, impl.MaxList+1), {{Ops: make([]impl.Op, impl.MaxList+1)}}}
+	for _, list := range lists {
+		calls = append(calls,
+			func() string { return fmt.Sprint(impl.BatchOK(list)) },
+			func() string { return told(impl.BatchText(list)) },
+			func() string { return fmt.Sprint(impl.SameBatch(list, lists[3]), impl.SameBatch(list, list)) },
+		)
+	}
+	texts := []string{
+		"", " ", ";", "|", "get 1", " put  1 5 ", "put 1", "get 1 1", "get 01", "scan 1 5", "get 1;get 2", "get 1 | drop 2; add 3 4 ", "get 1;", "get 1||get 2", "get 1|get 2|get 3",
+		textOf(100), textOf(impl.MaxText), textOf(impl.MaxText + 1), "get 1" + strings.Repeat(" ", impl.MaxText-5), "get 1" + strings.Repeat(" ", impl.MaxText-4), strings.Repeat("|", impl.MaxText), strings.Repeat(";", impl.MaxText),
+	}
+	for _, text := range texts {
+		calls = append(calls,
+			func() string { return fmt.Sprint(impl.ReadOp(text)) },
+			func() string { return fmt.Sprint(impl.ReadBatch(text)) },
+		)
 	}
 	return calls
 }
