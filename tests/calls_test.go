@@ -32,7 +32,7 @@ func stageCalls() []func() string {
 		calls = append(calls, func() string { return callsOn(h) })
 	}
 	calls = append(calls, func() string { return fmt.Sprint(impl.NewHash()) })
-	return slices.Concat(calls, streamCalls(), tagCalls(), boxCalls(), deviceCalls(), blockCalls(), treeCalls(), wayCalls(), batchCalls())
+	return slices.Concat(calls, streamCalls(), tagCalls(), boxCalls(), deviceCalls(), blockCalls(), treeCalls(), wayCalls(), batchCalls(), mapCalls())
 }
 
 func streamCalls() []func() string {
@@ -254,6 +254,43 @@ func batchCalls() []func() string {
 			func() string { return fmt.Sprint(impl.ReadOp(text)) },
 			func() string { return fmt.Sprint(impl.ReadBatch(text)) },
 		)
+	}
+	return calls
+}
+
+func mapCalls() []func() string {
+	var calls []func() string
+	maps := [][]impl.Entry{nil, {}, {{}}, someMap(), fullMap(), endsMap(), make([]impl.Entry, 12), make([]impl.Entry, impl.MaxList+1)}
+	batches := [][]impl.Txn{nil, {{}}, someBatch(), someShortBatch(), batchNamed("drop 10; put 3 5; put 77 1; check 77 2 | add 5 9; add 6 1; scan 1 4"), make([]impl.Txn, impl.MaxList+1)}
+	for _, m := range maps {
+		calls = append(calls, func() string { return fmt.Sprint(impl.MapOK(m)) })
+		for _, n := range []int{math.MinInt, -1, 0, 1, 3, 10, 40, 9999, 10000, math.MaxInt} {
+			calls = append(calls, func() string { return fmt.Sprint(impl.MapGet(m, n)) })
+			for kind := range 8 {
+				calls = append(calls,
+					func() string { return fmt.Sprint(impl.MapDo(m, impl.Op{Kind: kind, Key: n, Value: 1})) },
+					func() string { return fmt.Sprint(impl.MapDo(m, impl.Op{Kind: kind, Key: 10, Value: n})) },
+				)
+			}
+		}
+		for _, list := range batches {
+			calls = append(calls, func() string { return fmt.Sprint(impl.MapBatch(m, list)) })
+			for _, txn := range list[:min(2, len(list))] {
+				calls = append(calls, func() string { return fmt.Sprint(impl.MapTxn(m, txn)) })
+			}
+		}
+	}
+	for _, n := range []int{math.MinInt, -1, 0, 1, 14, 19, 20, 999999, 1000000, math.MaxInt} {
+		for _, r := range []impl.Result{{Code: n}, {Code: n, Values: []int{1}}, {Values: []int{1, n}}, {Values: slices.Repeat([]int{n}, 32)}, {Values: slices.Repeat([]int{n}, 33)}} {
+			calls = append(calls, func() string { return told(impl.ResultText(r)) })
+		}
+	}
+	texts := []string{
+		"", " ", "ok", "check", "  full ", "what", "OK", "ok 1", "ok  1 2 ", "ok 01", "ok -1", "ok 1000000", "check 1", "ok\t1", "ok" + strings.Repeat(" 7", 32), "ok" + strings.Repeat(" 7", 33),
+		textOf(100), textOf(impl.MaxText), textOf(impl.MaxText + 1), "ok" + strings.Repeat(" ", impl.MaxText-2), "ok" + strings.Repeat(" ", impl.MaxText-1), "ok" + strings.Repeat(" 1", impl.MaxText/2-1),
+	}
+	for _, text := range texts {
+		calls = append(calls, func() string { return fmt.Sprint(impl.ReadResult(text)) })
 	}
 	return calls
 }
