@@ -32,7 +32,7 @@ func stageCalls() []func() string {
 		calls = append(calls, func() string { return callsOn(h) })
 	}
 	calls = append(calls, func() string { return fmt.Sprint(impl.NewHash()) })
-	return slices.Concat(calls, streamCalls(), tagCalls(), boxCalls(), deviceCalls(), blockCalls(), treeCalls(), wayCalls(), batchCalls(), mapCalls())
+	return slices.Concat(calls, streamCalls(), tagCalls(), boxCalls(), deviceCalls(), blockCalls(), treeCalls(), wayCalls(), batchCalls(), mapCalls(), hiddenCalls())
 }
 
 func streamCalls() []func() string {
@@ -291,6 +291,47 @@ func mapCalls() []func() string {
 	}
 	for _, text := range texts {
 		calls = append(calls, func() string { return fmt.Sprint(impl.ReadResult(text)) })
+	}
+	return calls
+}
+
+func hiddenCalls() []func() string {
+	var calls []func() string
+	numbers := []int{math.MinInt, -1, 0, 1, 7, 8, 9999, 10000, math.MaxInt}
+	for _, n := range []int{0, 11, 12, 13, impl.MaxList, impl.MaxList + 1} {
+		list := slices.Repeat(leavesInTurn(), 1+n/12)[:n]
+		calls = append(calls, func() string { return fmt.Sprint(impl.NewEnc(list)) })
+	}
+	for _, n := range numbers {
+		keys, leaves := keysWith(someEnc(), 4, n), append(make([]int, 11), n)
+		calls = append(calls,
+			func() string { return fmt.Sprint(impl.NewEnc(leaves)) },
+			func() string { return fmt.Sprint(impl.EncOK(impl.Enc{Keys: keys, Oram: someOram()})) },
+			func() string { return fmt.Sprint(impl.MapOf(impl.Enc{Keys: keys, Oram: someOram()})) },
+			func() string {
+				return fmt.Sprint(impl.EncTxn(someEnc(), someShortBatch()[0], append(make([]int, 19), n)))
+			},
+			func() string {
+				return fmt.Sprint(impl.EncBatch(someEnc(), someShortBatch(), append(make([]int, 39), n)))
+			},
+		)
+	}
+	encs := append(encsByChance(85, 6), emptyEnc(), someEnc(), fullEnc(), impl.Enc{}, impl.Enc{Keys: make([]int, 12), Oram: someOram()})
+	lists := [][]impl.Txn{nil, {{}}, someBatch(), make([]impl.Txn, impl.MaxList+1)}
+	for _, text := range encTexts {
+		lists = append(lists, batchNamed(text))
+	}
+	for _, e := range encs {
+		calls = append(calls, func() string { return fmt.Sprint(impl.EncOK(e)) + fmt.Sprint(impl.MapOf(e)) })
+		for _, list := range lists {
+			for _, n := range []int{0, 19, 20, 21, 39, 40, 41, impl.MaxList, impl.MaxList + 1} {
+				draws := slices.Repeat(leavesInTurn(), 1+n/12)[:n]
+				calls = append(calls, func() string { return fmt.Sprint(impl.EncBatch(e, list, draws)) })
+				for _, txn := range list[:min(2, len(list))] {
+					calls = append(calls, func() string { return fmt.Sprint(impl.EncTxn(e, txn, draws)) })
+				}
+			}
+		}
 	}
 	return calls
 }
