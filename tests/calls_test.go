@@ -32,7 +32,7 @@ func stageCalls() []func() string {
 		calls = append(calls, func() string { return callsOn(h) })
 	}
 	calls = append(calls, func() string { return fmt.Sprint(impl.NewHash()) })
-	return slices.Concat(calls, streamCalls(), tagCalls(), boxCalls(), deviceCalls(), blockCalls(), treeCalls(), wayCalls(), batchCalls(), mapCalls(), hiddenCalls())
+	return slices.Concat(calls, streamCalls(), tagCalls(), boxCalls(), deviceCalls(), blockCalls(), treeCalls(), wayCalls(), batchCalls(), mapCalls(), hiddenCalls(), codecCalls())
 }
 
 func streamCalls() []func() string {
@@ -332,6 +332,45 @@ func hiddenCalls() []func() string {
 				}
 			}
 		}
+	}
+	return calls
+}
+
+func codecCalls() []func() string {
+	var calls []func() string
+	results := [][]impl.Result{nil, {{}}, fullestResults(), {{Code: 14}, {Values: []int{1}}}, {{Code: 20}}, make([]impl.Result, 3), make([]impl.Result, impl.MaxList+1)}
+	for _, e := range append(encsByChance(101, 6), emptyEnc(), someEnc(), fullestEnc(), impl.Enc{}, impl.Enc{Keys: []int{1, 1}, Oram: someOram()}) {
+		for _, list := range results {
+			calls = append(calls, func() string { return told(impl.StateText(e, list)) })
+		}
+	}
+	blocks := [][]impl.Block{nil, {}, {{}}, {{}, {}}, {{Id: 11, Leaf: 7, Value: 999999}, {Id: 3, Leaf: 2, Value: 1}}, make([]impl.Block, 3), make([]impl.Block, impl.MaxList+1)}
+	for _, n := range []int{math.MinInt, -1, 8, 12, 1000000, math.MaxInt} {
+		blocks = append(blocks, []impl.Block{{Id: n}}, []impl.Block{{}, {Leaf: n}}, []impl.Block{{Value: n}})
+	}
+	for _, list := range blocks {
+		calls = append(calls, func() string { return told(impl.BucketText(list)) })
+	}
+	for _, list := range [][]impl.Txn{nil, {{}}, someBatch(), someShortBatch(), make([]impl.Txn, 3), make([]impl.Txn, impl.MaxList+1)} {
+		for _, draws := range [][]int{nil, make([]int, 39), make([]int, 40), slices.Repeat([]int{8}, 40), slices.Repeat([]int{math.MinInt}, 40), make([]int, 41), make([]int, impl.MaxList+1)} {
+			calls = append(calls, func() string { return told(impl.EntryText(list, draws)) })
+		}
+	}
+	texts := []string{"", textOf(28), textOf(272), textOf(560), textOf(impl.MaxText), textOf(impl.MaxText + 1)}
+	for _, n := range []int{1, 27, 28, 29, 272, 560, 561, impl.MaxText, impl.MaxText + 1} {
+		texts = append(texts, strings.Repeat("\x00", n))
+	}
+	for _, k := range textKinds() {
+		for _, text := range k.right[:5] {
+			texts = append(texts, text, text[4:], withNumber(text, 0, 9), withNumber(text, 4, 2147483648), withNumber(text, k.size-1, 1))
+		}
+	}
+	for _, text := range texts {
+		calls = append(calls,
+			func() string { return fmt.Sprint(impl.ReadState(text)) },
+			func() string { return fmt.Sprint(impl.ReadBucket(text)) },
+			func() string { return fmt.Sprint(impl.ReadEntry(text)) },
+		)
 	}
 	return calls
 }
